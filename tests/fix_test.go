@@ -10,8 +10,8 @@ import (
 
 const most = impl.MaxFix
 
-// wrongFixes are no fixes; the last ones would pass as one if only their low
-// bits were looked at.
+// wrongFixes are no fixes; some would pass as one if only their low bits were
+// looked at.
 var wrongFixes = []int64{-1, -2, most + 1, most + 2, -most, -most - 1, 2 * most, math.MinInt64, math.MinInt64 + 1, math.MaxInt64, math.MaxInt64 - 1, 1 << 41, 1<<62 + 5, math.MinInt64 + 7}
 
 // someFixes are edges of the fixes and of the words that hold their products.
@@ -22,7 +22,7 @@ type twoCase struct{ a, b, want int64 }
 type threeCase struct{ a, b, c, want int64 }
 
 func isFix(a int64) bool {
-	return new(big.Int).SetInt64(a).Sign() >= 0 && big.NewInt(a).Cmp(big.NewInt(most)) <= 0
+	return a >= 0 && a <= most
 }
 
 // capped is what a whole number is once it stops at 0 and at MaxFix.
