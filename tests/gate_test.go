@@ -613,6 +613,12 @@ func TestWrongPartsOfGates(t *testing.T) {
 			})
 		}
 	}
+	for _, size := range append(wrongAround(1, mostFairSize), 1, 29, 31, mostFairSize) {
+		wrong(func(g *impl.Gate) {
+			*g = laden(*g, 1, item(1, 30, 70))
+			g.Fair.Flows[1].Sizes[0] = size
+		})
+	}
 	for _, most := range wrongAround(1, 200) {
 		wrong(func(g *impl.Gate) { g.Rows.Most = most })
 	}
