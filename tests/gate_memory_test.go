@@ -212,16 +212,21 @@ func TestGatesOfOneTree(t *testing.T) {
 	}
 }
 
-// Leaves and Sizes that are one list, and Lists that lie in one, each have
-// their own memory in the answer.
-func TestGateOfSharedLists(t *testing.T) {
-	numbers := []int64{1, 2, 5, 6}
-	room := []impl.Item{item(1, 1, 50), item(2, 2, 50), item(3, 1, 50), item(4, 2, 50), item(5, 9, 50)}
+// inOneRoom has Leaves and Sizes that are one list, and Lists that lie in one.
+func inOneRoom(numbers []int64, room []impl.Item) impl.Gate {
 	g := gateOf(plain(), treeOf(starUps(3), purse(5, 3000, 2000, 50)), 1, 2)
 	g.Routes, g.Rules, g.Next = routesToAll(), rulesToAll(), 6
 	g.Leaves = numbers[:2]
 	g.Rows.Lists = [][]impl.Item{room[:2], room[2:4]}
 	g.Fair.Flows[0].Sizes, g.Fair.Flows[1].Sizes = numbers[:2], numbers[:2]
+	return g
+}
+
+// Such lists each have their own memory in the answer.
+func TestGateOfSharedLists(t *testing.T) {
+	numbers := []int64{1, 2, 5, 6}
+	room := []impl.Item{item(1, 1, 50), item(2, 2, 50), item(3, 1, 50), item(4, 2, 50), item(5, 9, 50)}
+	g := inOneRoom(numbers, room)
 	gateOkIs(t, g, true)
 	keptRoom, keptNumbers := slices.Clone(room), slices.Clone(numbers)
 	for _, s := range []string{textTo(0, 100, 2), textTo(0, 101, 2), textTo(0, 0, 0)[:9]} {

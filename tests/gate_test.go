@@ -572,21 +572,12 @@ func TestWrongGatesByHand(t *testing.T) {
 	}
 }
 
-// Each part that is not right is found, whatever the others are.
-func TestWrongPartsOfGates(t *testing.T) {
+// eachWrongPart asks of gates one part of which alone is not right.
+func eachWrongPart(ask func(g impl.Gate)) {
 	good := goodGate()
-	wrong := func(change func(g *impl.Gate)) {
-		t.Helper()
-		g := withGate(good, change)
-		gateOkIs(t, g, false)
-		inIs(t, g, textTo(0, 0, 0), impl.Gate{}, -1)
-		outIs(t, g, impl.Gate{}, impl.Item{}, -2)
-		laterIs(t, g, 100, impl.Gate{}, false)
-		ruledIs(t, g, nil, nil, impl.Gate{}, false)
-	}
+	wrong := func(change func(g *impl.Gate)) { ask(withGate(good, change)) }
 	for _, l := range wrongLines() {
 		wrong(func(g *impl.Gate) { g.Line = l })
-		newGateIs(t, l, good.Tree, good.Leaves, impl.Gate{}, false)
 	}
 	for _, list := range wrongLists() {
 		wrong(func(g *impl.Gate) { g.Routes = list })
@@ -598,7 +589,6 @@ func TestWrongPartsOfGates(t *testing.T) {
 		if k%7 == 0 || len(tree) > 12 {
 			wrong(func(g *impl.Gate) { g.Tree, g.Leaves = tree, []int64{0, 1} })
 			wrong(func(g *impl.Gate) { *g = gateOf(plain(), tree, 0) })
-			newGateIs(t, plain(), tree, []int64{0}, impl.Gate{}, false)
 		}
 	}
 	for _, s := range wrongSteers() {
@@ -638,6 +628,27 @@ func TestWrongPartsOfGates(t *testing.T) {
 	for _, leaf := range outside(3) {
 		wrong(func(g *impl.Gate) { g.Leaves[1] = leaf })
 		wrong(func(g *impl.Gate) { g.Leaves[0] = leaf })
+	}
+}
+
+// Each part that is not right is found, whatever the others are.
+func TestWrongPartsOfGates(t *testing.T) {
+	eachWrongPart(func(g impl.Gate) {
+		t.Helper()
+		gateOkIs(t, g, false)
+		inIs(t, g, textTo(0, 0, 0), impl.Gate{}, -1)
+		outIs(t, g, impl.Gate{}, impl.Item{}, -2)
+		laterIs(t, g, 100, impl.Gate{}, false)
+		ruledIs(t, g, nil, nil, impl.Gate{}, false)
+	})
+	good := goodGate()
+	for _, l := range wrongLines() {
+		newGateIs(t, l, good.Tree, good.Leaves, impl.Gate{}, false)
+	}
+	for _, tree := range wrongTrees() {
+		newGateIs(t, plain(), tree, []int64{0}, impl.Gate{}, false)
+	}
+	for _, leaf := range outside(3) {
 		newGateIs(t, plain(), good.Tree, []int64{leaf}, impl.Gate{}, false)
 		newGateIs(t, plain(), good.Tree, []int64{1, leaf}, impl.Gate{}, false)
 	}

@@ -67,11 +67,7 @@ func TestImageArgumentsStay(t *testing.T) {
 // Lists that lie in one another, and one Tree for two gates.
 func TestImageOfSharedLists(t *testing.T) {
 	numbers, room := []int64{1, 2, 5, 6}, []impl.Item{item(1, 1, 50), item(2, 2, 50), item(3, 1, 50), item(4, 2, 50), item(5, 9, 50)}
-	g := gateOf(plain(), treeOf(starUps(3), purse(5, 3000, 2000, 50)), 1, 2)
-	g.Routes, g.Rules, g.Next = routesToAll(), rulesToAll(), 6
-	g.Leaves = numbers[:2]
-	g.Rows.Lists = [][]impl.Item{room[:2], room[2:4]}
-	g.Fair.Flows[0].Sizes, g.Fair.Flows[1].Sizes = numbers[:2], numbers[:2]
+	g := inOneRoom(numbers, room)
 	back := heldAsImage(t, g)
 	noGateMemoryTwice(t, back, impl.Gate{Leaves: numbers, Rows: rowsOf(1, room)})
 	spoilGate(back)
