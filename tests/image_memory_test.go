@@ -41,6 +41,28 @@ func partsOf(g impl.Gate) []string {
 	return list
 }
 
+// eachListAlone writes into one list after another of what is made: all others
+// of it stay, and so does what was made ahead.
+func eachListAlone(t *testing.T, made func() impl.Gate) {
+	t.Helper()
+	other := made()
+	keptOther, parts := keptGate(other), partsOf(other)
+	for k := range gateLists(other) {
+		g := made()
+		kept := g
+		kept.Rows.Lists, kept.Fair.Flows = slices.Clone(g.Rows.Lists), slices.Clone(g.Fair.Flows)
+		gateLists(g)[k]()
+		for at, part := range partsOf(kept) {
+			if at != k && part != parts[at] {
+				t.Fatalf("list %d was written into, list %d has become %q, not %q", k, at, part, parts[at])
+			}
+		}
+		if !sameGate(other, keptOther) {
+			t.Fatalf("list %d was written into: %+v has become %+v", k, keptOther, other)
+		}
+	}
+}
+
 func TestImageArgumentsStay(t *testing.T) {
 	gates := slices.Concat(fewGates(), []impl.Gate{handGate(), bareGate(), looseGate()})
 	for _, g := range wrongGates() {
@@ -100,22 +122,9 @@ func TestFromImageIsNewMemory(t *testing.T) {
 	}
 }
 
-// Each list alone is written into: all others of the answer stay.
 func TestFromImageListByList(t *testing.T) {
 	for _, s := range richImages() {
-		right, _ := impl.FromImage(s)
-		parts := partsOf(right)
-		for k := range gateLists(right) {
-			g, _ := impl.FromImage(s)
-			kept := g
-			kept.Rows.Lists, kept.Fair.Flows = slices.Clone(g.Rows.Lists), slices.Clone(g.Fair.Flows)
-			gateLists(g)[k]()
-			for other, part := range partsOf(kept) {
-				if other != k && part != parts[other] {
-					t.Fatalf("%q: list %d was written into, list %d has become %q, not %q", s, k, other, part, parts[other])
-				}
-			}
-		}
+		eachListAlone(t, func() impl.Gate { return firstOf(impl.FromImage(s)) })
 	}
 }
 

@@ -51,28 +51,13 @@ func TestShiftArgumentsStay(t *testing.T) {
 	}
 }
 
-// Each list of what is answered is written into alone: all others stay, and so
-// do the gate that was moved and another answer.
 func TestMovedListByList(t *testing.T) {
 	for _, g := range []impl.Gate{someGate(8, 4, 1, plain(), 5000, 25), someGate(1, 0, 0, cellsLine(), 0, 7), someGate(2, 1, 2, plain(), 200000, 40)} {
 		g = roomyGate(g)
 		all := wholeGate(g)
-		other, _ := impl.Moved(g, 9)
-		keptOther := keptGate(other)
-		parts := partsOf(other)
-		for k := range gateLists(other) {
-			moved, _ := impl.Moved(g, 9)
-			kept := moved
-			kept.Rows.Lists, kept.Fair.Flows = slices.Clone(moved.Rows.Lists), slices.Clone(moved.Fair.Flows)
-			gateLists(moved)[k]()
-			for at, part := range partsOf(kept) {
-				if at != k && part != parts[at] {
-					t.Fatalf("list %d was written into, list %d has become %q, not %q", k, at, part, parts[at])
-				}
-			}
-			if !sameGate(other, keptOther) || !sameGate(wholeGate(g), all) {
-				t.Fatalf("list %d was written into: %+v and %+v have become %+v and %+v", k, keptOther, all, other, wholeGate(g))
-			}
+		eachListAlone(t, func() impl.Gate { return firstOf(impl.Moved(g, 9)) })
+		if !sameGate(wholeGate(g), all) {
+			t.Fatalf("%+v has become %+v", all, wholeGate(g))
 		}
 	}
 }
